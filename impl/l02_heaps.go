@@ -246,3 +246,21 @@ func heldBy(fields []Field, name string) (int64, bool) {
 	}
 	return 0, false
 }
+
+// copyOf shares no list with h, so that it may be written into and handed out.
+func copyOf(h Heap) Heap {
+	h.Nodes = listCopy(h.Nodes)
+	for i := range h.Nodes {
+		h.Nodes[i].Kids = listCopy(h.Nodes[i].Kids)
+		h.Nodes[i].Listeners = listCopy(h.Nodes[i].Listeners)
+	}
+	h.Objs = listCopy(h.Objs)
+	for i := range h.Objs {
+		h.Objs[i].Fields = listCopy(h.Objs[i].Fields)
+	}
+	h.Globals = listCopy(h.Globals)
+	return h
+}
+
+// listCopy, not slices.Clone: that keeps the address of a list without elements.
+func listCopy[T any](l []T) []T { return append([]T(nil), l...) }

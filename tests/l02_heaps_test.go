@@ -246,85 +246,87 @@ func TestLimitsOfHeaps(t *testing.T) {
 	}
 }
 
-// Each row breaks one clause.
+// brokenClauses breaks one clause of smallHeap a row.
+var brokenClauses = []struct {
+	name  string
+	wrong func(h *impl.Heap)
+}{
+	{"nothing at all", func(h *impl.Heap) { *h = impl.Heap{} }},
+	{"Next 0", func(h *impl.Heap) { h.Next = 0 }},
+	{"Next below 0", func(h *impl.Heap) { h.Next = -1 }},
+	{"Next 1, no nodes", func(h *impl.Heap) { *h = impl.Heap{Next: 1, Doc: 1} }},
+	{"Next is the last Id", func(h *impl.Heap) { h.Next = 9 }},
+	{"a node's Id 0", func(h *impl.Heap) { *h = impl.Heap{Next: 1, Nodes: []impl.Node{{Tag: "a"}}} }},
+	{"a node's Id below 0", func(h *impl.Heap) { *h = impl.Heap{Next: 1, Doc: -1, Nodes: []impl.Node{{Id: -1, Tag: "a"}}} }},
+	{"an object's Id 0", func(h *impl.Heap) { h.Objs = append([]impl.Obj{{}}, h.Objs...) }},
+	{"an object's Id below 0", func(h *impl.Heap) { h.Objs = append([]impl.Obj{{Id: -3}}, h.Objs...) }},
+	{"a node's Id is Next", func(h *impl.Heap) { h.Nodes[4].Id = 11 }},
+	{"an object's Id is Next", func(h *impl.Heap) { h.Objs = append(h.Objs, impl.Obj{Id: 11}) }},
+	{"nodes fall", func(h *impl.Heap) { h.Nodes[3], h.Nodes[4] = h.Nodes[4], h.Nodes[3] }},
+	{"a node twice", func(h *impl.Heap) { h.Nodes = append(h.Nodes, h.Nodes[4]) }},
+	{"objects fall", func(h *impl.Heap) { h.Objs[1], h.Objs[2] = h.Objs[2], h.Objs[1] }},
+	{"an object twice", func(h *impl.Heap) { h.Objs = append(h.Objs, h.Objs[3]) }},
+	{"an Id in both", func(h *impl.Heap) { h.Objs = append(h.Objs, impl.Obj{Id: 9}) }},
+	{"no Tag", func(h *impl.Heap) { h.Nodes[4].Tag = "" }},
+	{"a Tag that is no name", func(h *impl.Heap) { h.Nodes[4].Tag = "Li" }},
+	{"a kid twice", func(h *impl.Heap) { h.Nodes[0].Kids = []int64{6, 3, 6} }},
+	{"a kid that is none", func(h *impl.Heap) { h.Nodes[0].Kids = []int64{6, 3, 10} }},
+	{"a kid 0", func(h *impl.Heap) { h.Nodes[0].Kids = []int64{6, 3, 0} }},
+	{"a kid that is an object", func(h *impl.Heap) { h.Nodes[0].Kids = []int64{6, 3, 5} }},
+	{"a kid without a Parent", func(h *impl.Heap) { h.Nodes[0].Kids = []int64{6, 3, 9} }},
+	{"a kid of another Parent", func(h *impl.Heap) { h.Nodes[0].Kids = []int64{6, 3, 8} }},
+	{"a Parent that has it not", func(h *impl.Heap) { h.Nodes[4].Parent = 1 }},
+	{"a Parent that is none", func(h *impl.Heap) { h.Nodes[4].Parent = 10 }},
+	{"a Parent that is an object", func(h *impl.Heap) { h.Nodes[4].Parent = 5 }},
+	{"a Parent below 0", func(h *impl.Heap) { h.Nodes[4].Parent = -1 }},
+	{"its own Parent", func(h *impl.Heap) { h.Nodes[4].Parent, h.Nodes[4].Kids = 9, []int64{9} }},
+	{"a ring of two", func(h *impl.Heap) {
+		h.Nodes = append(h.Nodes, impl.Node{Id: 10, Tag: "a", Parent: 9, Kids: []int64{9}})
+		h.Nodes[4].Parent, h.Nodes[4].Kids = 10, []int64{10}
+	}},
+	{"a ring of three, with one below it", func(h *impl.Heap) {
+		h.Next = 14
+		h.Nodes = append(h.Nodes, impl.Node{Id: 11, Tag: "a", Parent: 9, Kids: []int64{12, 13}}, impl.Node{Id: 12, Tag: "a", Parent: 11, Kids: []int64{9}}, impl.Node{Id: 13, Tag: "a", Parent: 11})
+		h.Nodes[4].Parent, h.Nodes[4].Kids = 12, []int64{11}
+	}},
+	{"a Wrapper that is none", func(h *impl.Heap) { h.Nodes[4].Wrapper = 10 }},
+	{"a Wrapper that is a node", func(h *impl.Heap) { h.Nodes[4].Wrapper = 8 }},
+	{"a Wrapper below 0", func(h *impl.Heap) { h.Nodes[4].Wrapper = -1 }},
+	{"a Wrapper without a Node", func(h *impl.Heap) { h.Nodes[4].Wrapper = 5 }},
+	{"a Wrapper of another Node", func(h *impl.Heap) { h.Nodes[4].Wrapper = 2 }},
+	{"no Wrapper, but an object's Node", func(h *impl.Heap) { h.Nodes[2].Wrapper = 0 }},
+	{"a Node that is none", func(h *impl.Heap) { h.Objs[2].Node = 10 }},
+	{"a Node that is an object", func(h *impl.Heap) { h.Objs[2].Node = 4 }},
+	{"a Node below 0", func(h *impl.Heap) { h.Objs[2].Node = -1 }},
+	{"a Node without a Wrapper", func(h *impl.Heap) { h.Objs[2].Node = 9 }},
+	{"a Node of another Wrapper", func(h *impl.Heap) { h.Objs[2].Node = 1 }},
+	{"no Node, but a node's Wrapper", func(h *impl.Heap) { h.Objs[3].Node = 0 }},
+	{"a listener without a Type", func(h *impl.Heap) { h.Nodes[1].Listeners[0].Type = "" }},
+	{"a listener without a Name", func(h *impl.Heap) { h.Nodes[1].Listeners[1].Name = "" }},
+	{"a listener's Type that is no name", func(h *impl.Heap) { h.Nodes[1].Listeners[1].Type = "a b" }},
+	{"a listener's Name that is no name", func(h *impl.Heap) { h.Nodes[1].Listeners[0].Name = "a1" }},
+	{"a field without a Name", func(h *impl.Heap) { h.Objs[1].Fields[0].Name = "" }},
+	{"a field's Name that is no name", func(h *impl.Heap) { h.Objs[1].Fields[0].Name = "x." }},
+	{"fields fall", func(h *impl.Heap) { f := h.Objs[0].Fields; f[0], f[1] = f[1], f[0] }},
+	{"a field twice", func(h *impl.Heap) { h.Objs[0].Fields[1].Name = "a" }},
+	{"a field that holds none", func(h *impl.Heap) { h.Objs[0].Fields[2].Obj = 10 }},
+	{"a field that holds 0", func(h *impl.Heap) { h.Objs[0].Fields[2].Obj = 0 }},
+	{"a field that holds a node", func(h *impl.Heap) { h.Objs[0].Fields[2].Obj = 9 }},
+	{"a global without a Name", func(h *impl.Heap) { h.Globals[0].Name = "" }},
+	{"a global's Name that is no name", func(h *impl.Heap) { h.Globals[3].Name = "z!" }},
+	{"globals fall", func(h *impl.Heap) { h.Globals[0], h.Globals[1] = h.Globals[1], h.Globals[0] }},
+	{"a global twice", func(h *impl.Heap) { h.Globals[1].Name = "d" }},
+	{"a global that holds none", func(h *impl.Heap) { h.Globals[0].Obj = 10 }},
+	{"a global that holds 0", func(h *impl.Heap) { h.Globals[0].Obj = 0 }},
+	{"a global that holds a node", func(h *impl.Heap) { h.Globals[0].Obj = 1 }},
+	{"Doc 0", func(h *impl.Heap) { h.Doc = 0 }},
+	{"Doc is none", func(h *impl.Heap) { h.Doc = 10 }},
+	{"Doc is an object", func(h *impl.Heap) { h.Doc = 2 }},
+	{"Doc has a Parent", func(h *impl.Heap) { h.Doc = 6 }},
+}
+
 func TestClausesOfHeaps(t *testing.T) {
-	for _, c := range []struct {
-		name  string
-		wrong func(h *impl.Heap)
-	}{
-		{"nothing at all", func(h *impl.Heap) { *h = impl.Heap{} }},
-		{"Next 0", func(h *impl.Heap) { h.Next = 0 }},
-		{"Next below 0", func(h *impl.Heap) { h.Next = -1 }},
-		{"Next 1, no nodes", func(h *impl.Heap) { *h = impl.Heap{Next: 1, Doc: 1} }},
-		{"Next is the last Id", func(h *impl.Heap) { h.Next = 9 }},
-		{"a node's Id 0", func(h *impl.Heap) { *h = impl.Heap{Next: 1, Nodes: []impl.Node{{Tag: "a"}}} }},
-		{"a node's Id below 0", func(h *impl.Heap) { *h = impl.Heap{Next: 1, Doc: -1, Nodes: []impl.Node{{Id: -1, Tag: "a"}}} }},
-		{"an object's Id 0", func(h *impl.Heap) { h.Objs = append([]impl.Obj{{}}, h.Objs...) }},
-		{"an object's Id below 0", func(h *impl.Heap) { h.Objs = append([]impl.Obj{{Id: -3}}, h.Objs...) }},
-		{"a node's Id is Next", func(h *impl.Heap) { h.Nodes[4].Id = 11 }},
-		{"an object's Id is Next", func(h *impl.Heap) { h.Objs = append(h.Objs, impl.Obj{Id: 11}) }},
-		{"nodes fall", func(h *impl.Heap) { h.Nodes[3], h.Nodes[4] = h.Nodes[4], h.Nodes[3] }},
-		{"a node twice", func(h *impl.Heap) { h.Nodes = append(h.Nodes, h.Nodes[4]) }},
-		{"objects fall", func(h *impl.Heap) { h.Objs[1], h.Objs[2] = h.Objs[2], h.Objs[1] }},
-		{"an object twice", func(h *impl.Heap) { h.Objs = append(h.Objs, h.Objs[3]) }},
-		{"an Id in both", func(h *impl.Heap) { h.Objs = append(h.Objs, impl.Obj{Id: 9}) }},
-		{"no Tag", func(h *impl.Heap) { h.Nodes[4].Tag = "" }},
-		{"a Tag that is no name", func(h *impl.Heap) { h.Nodes[4].Tag = "Li" }},
-		{"a kid twice", func(h *impl.Heap) { h.Nodes[0].Kids = []int64{6, 3, 6} }},
-		{"a kid that is none", func(h *impl.Heap) { h.Nodes[0].Kids = []int64{6, 3, 10} }},
-		{"a kid 0", func(h *impl.Heap) { h.Nodes[0].Kids = []int64{6, 3, 0} }},
-		{"a kid that is an object", func(h *impl.Heap) { h.Nodes[0].Kids = []int64{6, 3, 5} }},
-		{"a kid without a Parent", func(h *impl.Heap) { h.Nodes[0].Kids = []int64{6, 3, 9} }},
-		{"a kid of another Parent", func(h *impl.Heap) { h.Nodes[0].Kids = []int64{6, 3, 8} }},
-		{"a Parent that has it not", func(h *impl.Heap) { h.Nodes[4].Parent = 1 }},
-		{"a Parent that is none", func(h *impl.Heap) { h.Nodes[4].Parent = 10 }},
-		{"a Parent that is an object", func(h *impl.Heap) { h.Nodes[4].Parent = 5 }},
-		{"a Parent below 0", func(h *impl.Heap) { h.Nodes[4].Parent = -1 }},
-		{"its own Parent", func(h *impl.Heap) { h.Nodes[4].Parent, h.Nodes[4].Kids = 9, []int64{9} }},
-		{"a ring of two", func(h *impl.Heap) {
-			h.Nodes = append(h.Nodes, impl.Node{Id: 10, Tag: "a", Parent: 9, Kids: []int64{9}})
-			h.Nodes[4].Parent, h.Nodes[4].Kids = 10, []int64{10}
-		}},
-		{"a ring of three, with one below it", func(h *impl.Heap) {
-			h.Next = 14
-			h.Nodes = append(h.Nodes, impl.Node{Id: 11, Tag: "a", Parent: 9, Kids: []int64{12, 13}}, impl.Node{Id: 12, Tag: "a", Parent: 11, Kids: []int64{9}}, impl.Node{Id: 13, Tag: "a", Parent: 11})
-			h.Nodes[4].Parent, h.Nodes[4].Kids = 12, []int64{11}
-		}},
-		{"a Wrapper that is none", func(h *impl.Heap) { h.Nodes[4].Wrapper = 10 }},
-		{"a Wrapper that is a node", func(h *impl.Heap) { h.Nodes[4].Wrapper = 8 }},
-		{"a Wrapper below 0", func(h *impl.Heap) { h.Nodes[4].Wrapper = -1 }},
-		{"a Wrapper without a Node", func(h *impl.Heap) { h.Nodes[4].Wrapper = 5 }},
-		{"a Wrapper of another Node", func(h *impl.Heap) { h.Nodes[4].Wrapper = 2 }},
-		{"no Wrapper, but an object's Node", func(h *impl.Heap) { h.Nodes[2].Wrapper = 0 }},
-		{"a Node that is none", func(h *impl.Heap) { h.Objs[2].Node = 10 }},
-		{"a Node that is an object", func(h *impl.Heap) { h.Objs[2].Node = 4 }},
-		{"a Node below 0", func(h *impl.Heap) { h.Objs[2].Node = -1 }},
-		{"a Node without a Wrapper", func(h *impl.Heap) { h.Objs[2].Node = 9 }},
-		{"a Node of another Wrapper", func(h *impl.Heap) { h.Objs[2].Node = 1 }},
-		{"no Node, but a node's Wrapper", func(h *impl.Heap) { h.Objs[3].Node = 0 }},
-		{"a listener without a Type", func(h *impl.Heap) { h.Nodes[1].Listeners[0].Type = "" }},
-		{"a listener without a Name", func(h *impl.Heap) { h.Nodes[1].Listeners[1].Name = "" }},
-		{"a listener's Type that is no name", func(h *impl.Heap) { h.Nodes[1].Listeners[1].Type = "a b" }},
-		{"a listener's Name that is no name", func(h *impl.Heap) { h.Nodes[1].Listeners[0].Name = "a1" }},
-		{"a field without a Name", func(h *impl.Heap) { h.Objs[1].Fields[0].Name = "" }},
-		{"a field's Name that is no name", func(h *impl.Heap) { h.Objs[1].Fields[0].Name = "x." }},
-		{"fields fall", func(h *impl.Heap) { f := h.Objs[0].Fields; f[0], f[1] = f[1], f[0] }},
-		{"a field twice", func(h *impl.Heap) { h.Objs[0].Fields[1].Name = "a" }},
-		{"a field that holds none", func(h *impl.Heap) { h.Objs[0].Fields[2].Obj = 10 }},
-		{"a field that holds 0", func(h *impl.Heap) { h.Objs[0].Fields[2].Obj = 0 }},
-		{"a field that holds a node", func(h *impl.Heap) { h.Objs[0].Fields[2].Obj = 9 }},
-		{"a global without a Name", func(h *impl.Heap) { h.Globals[0].Name = "" }},
-		{"a global's Name that is no name", func(h *impl.Heap) { h.Globals[3].Name = "z!" }},
-		{"globals fall", func(h *impl.Heap) { h.Globals[0], h.Globals[1] = h.Globals[1], h.Globals[0] }},
-		{"a global twice", func(h *impl.Heap) { h.Globals[1].Name = "d" }},
-		{"a global that holds none", func(h *impl.Heap) { h.Globals[0].Obj = 10 }},
-		{"a global that holds 0", func(h *impl.Heap) { h.Globals[0].Obj = 0 }},
-		{"a global that holds a node", func(h *impl.Heap) { h.Globals[0].Obj = 1 }},
-		{"Doc 0", func(h *impl.Heap) { h.Doc = 0 }},
-		{"Doc is none", func(h *impl.Heap) { h.Doc = 10 }},
-		{"Doc is an object", func(h *impl.Heap) { h.Doc = 2 }},
-		{"Doc has a Parent", func(h *impl.Heap) { h.Doc = 6 }},
-	} {
+	for _, c := range brokenClauses {
 		h := smallHeap()
 		c.wrong(&h)
 		if impl.HeapOk(h) {
