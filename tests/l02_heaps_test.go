@@ -325,6 +325,27 @@ var brokenClauses = []struct {
 	{"Doc has a Parent", func(h *impl.Heap) { h.Doc = 6 }},
 }
 
+// heapsNotRight breaks each clause, and passes a limit by one.
+func heapsNotRight(each func(what string, h impl.Heap)) {
+	for _, c := range brokenClauses {
+		h := smallHeap()
+		c.wrong(&h)
+		each(c.name, h)
+	}
+	past := fullHeap()
+	past.Next++
+	each("Next above MaxId", past)
+	more := fullHeap()
+	more.Nodes = append(more.Nodes, impl.Node{Id: 101, Tag: "a"})
+	each("17 nodes", more)
+	many := smallHeap()
+	many.Globals = fieldsTo(4, 9)
+	each("nine globals", many)
+	loud := smallHeap()
+	loud.Nodes[0].Listeners = listeners(5)
+	each("five listeners", loud)
+}
+
 func TestClausesOfHeaps(t *testing.T) {
 	for _, c := range brokenClauses {
 		h := smallHeap()

@@ -201,22 +201,11 @@ func TestTreesOfNothing(t *testing.T) {
 
 func TestTreesOfHeapsThatAreNotRight(t *testing.T) {
 	defer endsSoon("trees of heaps that are not right")()
-	for _, c := range brokenClauses {
-		h := smallHeap()
-		c.wrong(&h)
-		for id := int64(-1); id <= 14; id++ {
-			noTrees(t, c.name, h, id)
-		}
-	}
-	past := fullHeap()
-	past.Next++
-	more := smallHeap()
-	more.Nodes[0].Listeners = listeners(5)
-	for _, h := range []impl.Heap{past, more} {
+	heapsNotRight(func(what string, h impl.Heap) {
 		for id := int64(-1); id <= 35; id++ {
-			noTrees(t, "a limit is passed", h, id)
+			noTrees(t, what, h, id)
 		}
-	}
+	})
 }
 
 func TestTreesAreNewMemory(t *testing.T) {

@@ -1019,7 +1019,7 @@ func TestLimitsOfIds(t *testing.T) {
 func TestOpsOnHeapsThatAreNotRight(t *testing.T) {
 	defer endsSoon("ops on heaps that are not right")()
 	ops := append(allOps([]string{"d", "e", "ea", "z"}, []string{"x"}), impl.Op{}, impl.Op{Kind: 13, Name: "a"}, opObject("A"))
-	wrong := func(name string, h impl.Heap) {
+	heapsNotRight(func(name string, h impl.Heap) {
 		for _, o := range ops {
 			if after, code := impl.Ran(h, o); code != impl.HpWrong || !sameHeap(after, impl.Heap{}) {
 				t.Error(name, o, code, after)
@@ -1030,18 +1030,7 @@ func TestOpsOnHeapsThatAreNotRight(t *testing.T) {
 				t.Error(name, len(l), codes, after)
 			}
 		}
-	}
-	for _, c := range brokenClauses {
-		h := smallHeap()
-		c.wrong(&h)
-		wrong(c.name, h)
-	}
-	past := fullHeap()
-	past.Next++
-	wrong("Next above MaxId", past)
-	more := smallHeap()
-	more.Globals = fieldsTo(4, 9)
-	wrong("nine globals", more)
+	})
 }
 
 func TestRanAll(t *testing.T) {
