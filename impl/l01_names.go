@@ -74,29 +74,41 @@ func appendTree(text []byte, t Tree) []byte {
 }
 
 func ReadTree(s string) (Tree, bool) {
-	if len(s) > maxTreeText {
-		return Tree{}, false
-	}
-	return readWholeTree(s)
+	return readWhole(s, maxTreeText, treeFrom)
 }
 
-// readWholeTree names its results because the deferred function has to reach
-// them: it is where a reader that gave up becomes false.
-func readWholeTree(s string) (t Tree, ok bool) {
+// readWhole names its results because the deferred function has to reach them:
+// it is where a reader that gave up becomes false.
+func readWhole[T any](s string, most int, read func(r *textReader) T) (whole T, ok bool) {
+	if len(s) > most {
+		return whole, false
+	}
 	defer func() {
 		if recover() != nil {
-			t, ok = Tree{}, false
+			var none T
+			whole, ok = none, false
 		}
 	}()
-	r := treeReader{text: s, room: MaxTree}
-	t = r.tree()
+	r := textReader{text: s, room: MaxTree}
+	whole = read(&r)
 	r.end()
-	return t, true
+	return whole, true
 }
 
-// treeReader stands at a place of a text, with room for so many nodes more.
-// Room is asked ahead of each node, so that no text makes it go down deep.
-type treeReader struct {
+func treeFrom(r *textReader) Tree {
+	r.oneMore()
+	r.take("<")
+	t := Tree{Tag: r.name()}
+	r.take(">")
+	for !r.sees("</") {
+		t.Kids = append(t.Kids, treeFrom(r))
+	}
+	r.take("</" + t.Tag + ">")
+	return t
+}
+
+// textReader stands at a place of a text, with room for so many nodes more.
+type textReader struct {
 	text string
 	at   int
 	room int
@@ -104,24 +116,18 @@ type treeReader struct {
 
 // giveUp panics, so that a refusal far down needs no handing on through every
 // step above it.
-func (r *treeReader) giveUp() { panic("this is no tree's text") }
+func (r *textReader) giveUp() { panic("this is no text of such a thing") }
 
-func (r *treeReader) tree() Tree {
+// oneMore is asked ahead of each node, so that no text makes a reader go down
+// deep, or go on at its end.
+func (r *textReader) oneMore() {
 	if r.room == 0 {
 		r.giveUp()
 	}
 	r.room--
-	r.take("<")
-	t := Tree{Tag: r.name()}
-	r.take(">")
-	for !r.sees("</") {
-		t.Kids = append(t.Kids, r.tree())
-	}
-	r.take("</" + t.Tag + ">")
-	return t
 }
 
-func (r *treeReader) name() string {
+func (r *textReader) name() string {
 	end := r.at
 	for end < len(r.text) && isLetter(r.text[end]) {
 		end++
@@ -134,18 +140,18 @@ func (r *treeReader) name() string {
 	return name
 }
 
-func (r *treeReader) sees(sign string) bool {
+func (r *textReader) sees(sign string) bool {
 	return strings.HasPrefix(r.text[r.at:], sign)
 }
 
-func (r *treeReader) take(sign string) {
+func (r *textReader) take(sign string) {
 	if !r.sees(sign) {
 		r.giveUp()
 	}
 	r.at += len(sign)
 }
 
-func (r *treeReader) end() {
+func (r *textReader) end() {
 	if r.at != len(r.text) {
 		r.giveUp()
 	}
