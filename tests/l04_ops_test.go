@@ -308,14 +308,18 @@ func (m *model) run(o impl.Op) int64 {
 			return code
 		}
 	}
+	if !m.hasRoom() {
+		return 4
+	}
+	return 0
+}
+
+func (m *model) hasRoom() bool {
 	room := m.next <= 1000000000 && len(m.nodes) <= 16 && len(m.objs) <= 16 && len(m.globals) <= 8
 	for _, its := range m.objs {
 		room = room && len(its.fields) <= 5
 	}
-	if !room {
-		return 4
-	}
-	return 0
+	return room
 }
 
 func (m *model) runOn(o impl.Op, its, other *modelObj) int64 {
